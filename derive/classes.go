@@ -46,6 +46,9 @@ func (f finder) formed(x *typed[*class], inst, args int) bool {
 	return true
 }
 
+// bindable is so of all types: those that are found are known.
+func (f finder) bindable(*class) bool { return true }
+
 func (f finder) parts(t *class, name string, count int) ([]*class, bool) {
 	u := &class{name: name, args: fresh(count)}
 	return u.args, f.equal(t, u)

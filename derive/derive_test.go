@@ -332,6 +332,22 @@ func TestCheckPoints(t *testing.T) {
 // open has a value whose body leaves a variable open.
 const open = "val f = fn x => x; output o = 1;"
 
+// P4.1: Check: a case does not hold if the type of what it looks at is not known.
+func TestCheckCaseOfUnknown(t *testing.T) {
+	for _, text := range []string{"case 0 of _ => 0 end", "case 0 of v => v end", "case (1, 2) of (_, v) => v end"} {
+		p := program("val m = 1; fun f x = 1 and g y = (y, " + text + ");")
+		d := derived(p)
+		choice := &d.Bodies[2].Args[0].Args[1]
+		for _, u := range []string{"Nope", "(Int, Nope)", "Bool Int"} {
+			choice.Args[0].Type = typ(u)
+			at, e := Check(p, d)
+			if e != api.ErrStep || !sameBlame(at, api.Blame{Decl: 1, Fun: 1, Path: []int{1}}) {
+				t.Errorf("Check of %s with %s = %v, %d", text, u, at, e)
+			}
+		}
+	}
+}
+
 // P4.1: Check: values and outputs have no variables, and outputs no arrows.
 func TestCheckValues(t *testing.T) {
 	whole := func(t string, vars ...string) func(d *api.Derivation) {

@@ -29,6 +29,8 @@ type judge[T any] interface {
 	// under returns a type with others in the place of its variables.
 	under(t api.Type, of map[string]T) T
 	same(l ...T) bool
+	// bindable reports whether Bind takes a type: if it is there it has to be known, whatever the pattern is.
+	bindable(t T) bool
 }
 
 // node is an expression with its types, in its environment.
@@ -184,6 +186,9 @@ func (r *rules[T]) recursive(n node[T]) bool {
 }
 
 func (r *rules[T]) cases(n node[T]) bool {
+	if !r.bindable(n.args[0].typ) {
+		return false
+	}
 	for i, p := range n.expr.Pats {
 		vars, ok := r.bind(n.base, p, n.args[0].typ)
 		if !ok || hasTwice(vars) || !r.same(n.typ, n.args[i+1].typ) {

@@ -160,7 +160,7 @@ func (s slow) holds(env []api.Named, e api.Expr, x api.Typed, add func(int, ...a
 	case api.ECase:
 		for i, p := range e.Pats {
 			l, ok := s.bind(p, x.Args[0].Type)
-			if !ok || twice(l) || !same(x.Type, x.Args[i+1].Type) {
+			if !ok || twice(l) || !s.known(x.Args[0].Type) || !same(x.Type, x.Args[i+1].Type) {
 				return false
 			}
 			add(i+1, l...)

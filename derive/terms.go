@@ -76,9 +76,10 @@ func sameTerms(l ...term) bool {
 type checker struct{ *base }
 
 func (c checker) formed(x *typed[term], inst, args int) bool {
-	known := func(t term) bool { return c.known(t.Type) }
-	return len(x.inst) == inst && len(x.args) == args && known(x.typ) && all(x.inst, known)
+	return len(x.inst) == inst && len(x.args) == args && c.bindable(x.typ) && all(x.inst, c.bindable)
 }
+
+func (c checker) bindable(t term) bool { return c.known(t.Type) }
 
 func (c checker) parts(t term, name string, count int) ([]term, bool) {
 	t = t.head()
